@@ -106,24 +106,31 @@ func (c *course) hasThrows(throws []int) bool {
 	return true
 }
 
-// behind returns the square behind a throw.
-func (c *course) behind(square int, face int) int {
+// lands returns the square that a throw brings a token to, before it goes by
+// the jump that may begin there: a token that stays lands where it is.
+func (c *course) lands(square int, face int) int {
 	to := square + face
 	if square == c.squares {
 		return square
 	}
 	if to <= c.squares {
-		return c.goes[to]
+		return to
 	}
 	switch c.over {
 	case overEnds:
 		return c.squares
 	case overTurns:
 		if back := 2*c.squares - to; back >= 0 {
-			return c.goes[back]
+			return back
 		}
 	}
 	return square
+}
+
+// behind returns the square behind a throw. A token that stays makes no jump,
+// as none begins where a token can be.
+func (c *course) behind(square int, face int) int {
+	return c.goes[c.lands(square, face)]
 }
 
 // fewest returns the least number of throws that lead from a square to the

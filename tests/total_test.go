@@ -82,13 +82,14 @@ func boardCalls(b impl.Board, square int, j impl.Jump) []call {
 	)
 }
 
-func TestBoardsThatAreNoneFail(t *testing.T) {
+// noBoards returns values that are no boards, told by why they are none.
+func noBoards() map[string]impl.Board {
 	jumps := []impl.Jump{{From: 3, To: 8}, {From: 9, To: 2}}
 	many := []impl.Jump{}
 	for from := 1; from <= impl.MaxJumps+1; from++ {
 		many = append(many, impl.Jump{From: from, To: 0})
 	}
-	for why, b := range map[string]impl.Board{
+	return map[string]impl.Board{
 		"zero board":         {},
 		"no squares":         {Squares: 0, Faces: 3},
 		"too many squares":   {Squares: 101, Faces: 3, Jumps: jumps},
@@ -112,7 +113,11 @@ func TestBoardsThatAreNoneFail(t *testing.T) {
 		"jump to a later":    {Squares: 10, Faces: 3, Jumps: []impl.Jump{{From: 3, To: 9}, {From: 9, To: 2}}},
 		"jump to an earlier": {Squares: 10, Faces: 3, Jumps: []impl.Jump{{From: 3, To: 8}, {From: 9, To: 3}}},
 		"too many jumps":     {Squares: 100, Faces: 3, Jumps: many},
-	} {
+	}
+}
+
+func TestBoardsThatAreNoneFail(t *testing.T) {
+	for why, b := range noBoards() {
 		before := slices.Clone(b.Jumps)
 		checkFails(t, why, boardCalls(b, 0, impl.Jump{From: 5, To: 6}))
 		checkFails(t, why, boardCalls(b, 0, impl.Jump{From: 9, To: 2}))
