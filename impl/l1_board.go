@@ -133,6 +133,18 @@ func (c *course) behind(square int, face int) int {
 	return c.goes[c.lands(square, face)]
 }
 
+// facesTo returns how many faces lead from a square to another one, or the
+// same.
+func (c *course) facesTo(from int, to int) int {
+	faces := 0
+	for face := 1; face <= c.faces; face++ {
+		if c.behind(from, face) == to {
+			faces++
+		}
+	}
+	return faces
+}
+
 // fewest returns the least number of throws that lead from a square to the
 // end. It fails if there are none.
 func (c *course) fewest(square int) (int, bool) {
@@ -469,13 +481,7 @@ func FacesTo(b Board, from int, to int) (int, bool) {
 	if !ok || !c.holds(to) {
 		return 0, false
 	}
-	faces := 0
-	for face := 1; face <= c.faces; face++ {
-		if c.behind(from, face) == to {
-			faces++
-		}
-	}
-	return faces, true
+	return c.facesTo(from, to), true
 }
 
 // SnakesOf returns all snakes, in their order.

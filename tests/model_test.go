@@ -235,18 +235,22 @@ func largeBoards(count int, seed int64) []impl.Board {
 	boards := make([]impl.Board, 0, count)
 	for range count {
 		b := impl.Board{Squares: 1 + r.Intn(100), Faces: 1 + r.Intn(8), Over: r.Intn(3)}
-		tries := r.Intn(60)
-		for ; tries > 0 && b.Squares > 1; tries-- {
-			with := b
-			with.Jumps = append(slices.Clone(b.Jumps), impl.Jump{From: 1 + r.Intn(b.Squares-1), To: r.Intn(b.Squares + 1)})
-			slices.SortFunc(with.Jumps, func(j impl.Jump, k impl.Jump) int { return j.From - k.From })
-			if modelIsBoard(with) {
-				b = with
-			}
-		}
-		boards = append(boards, b)
+		boards = append(boards, jumpsPutIn(r, b, r.Intn(60)))
 	}
 	return boards
+}
+
+// jumpsPutIn returns the board with those of so many jumps that it can have.
+func jumpsPutIn(r *rand.Rand, b impl.Board, tries int) impl.Board {
+	for ; tries > 0 && b.Squares > 1; tries-- {
+		with := b
+		with.Jumps = append(slices.Clone(b.Jumps), impl.Jump{From: 1 + r.Intn(b.Squares-1), To: r.Intn(b.Squares + 1)})
+		slices.SortFunc(with.Jumps, func(j impl.Jump, k impl.Jump) int { return j.From - k.From })
+		if modelIsBoard(with) {
+			b = with
+		}
+	}
+	return b
 }
 
 // board returns the board with a text that the test relies on.

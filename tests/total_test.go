@@ -227,6 +227,10 @@ func scratchResults(calls []call) {
 			switch x := r.(type) {
 			case []int:
 				scratch(x, -9)
+			case [][]int:
+				for _, list := range x {
+					scratch(list, -9)
+				}
 			case []impl.Jump:
 				scratch(x, impl.Jump{From: -9, To: -9})
 			case impl.Board:
